@@ -474,28 +474,32 @@ func TestParseExprShortTexts(t *testing.T) {
 	}
 }
 
-// Texts that differ by one byte from the text of an expression.
+// changedBytes returns texts that differ from s by one byte, which is one of others if it is not just left out, or by their length.
+func changedBytes(s string, others string) []string {
+	var variants []string
+	for i := range len(s) + 1 {
+		variants = append(variants, s[:i], s[i:])
+		for _, c := range others {
+			variants = append(variants, s[:i]+string(c)+s[i:])
+			if i < len(s) {
+				variants = append(variants, s[:i]+string(c)+s[i+1:])
+			}
+		}
+		if i < len(s) {
+			variants = append(variants, s[:i]+s[i+1:])
+		}
+	}
+	return variants
+}
+
 func TestParseExprChangedTexts(t *testing.T) {
 	accepted, refused := 0, 0
 	for _, e := range sampleExprs()[:700] {
-		s := textOf(e)
-		for i := range len(s) + 1 {
-			variants := []string{s[:i], s[i:]}
-			for _, c := range parseBytes {
-				variants = append(variants, s[:i]+string(c)+s[i:])
-				if i < len(s) {
-					variants = append(variants, s[:i]+string(c)+s[i+1:])
-				}
-			}
-			if i < len(s) {
-				variants = append(variants, s[:i]+s[i+1:])
-			}
-			for _, v := range variants {
-				if checkParse(t, v) {
-					accepted++
-				} else {
-					refused++
-				}
+		for _, v := range changedBytes(textOf(e), parseBytes) {
+			if checkParse(t, v) {
+				accepted++
+			} else {
+				refused++
 			}
 		}
 	}

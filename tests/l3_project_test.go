@@ -512,40 +512,27 @@ func TestParseProjectLinesInAnyOrder(t *testing.T) {
 	}
 }
 
-// Texts that differ by one byte, or by one line, from the text of a project.
-func TestParseProjectChangedTexts(t *testing.T) {
-	list := []impl.Project{fullProject(), {}}
-	for i, p := range smallProjects() {
-		if i%40 == 0 {
-			list = append(list, p)
+// changedTexts returns texts that differ from s by one byte, or by some of their lines.
+func changedTexts(s string) []string {
+	variants := changedBytes(s, "ax 'A@(\n\x7f\u00e9")
+	lines := strings.SplitAfter(s, "\n")
+	for i := range lines {
+		for j := range lines {
+			swapped := slices.Clone(lines)
+			swapped[i], swapped[j] = swapped[j], swapped[i]
+			variants = append(variants, strings.Join(swapped, ""), strings.Join(slices.Insert(slices.Clone(lines), i, lines[j]), ""), strings.Join(slices.Delete(slices.Clone(lines), min(i, j), max(i, j)), ""))
 		}
 	}
+	return variants
+}
+
+// countParsed calls check for all changed texts of some texts, and fails if it is true, or false, for hardly any of them.
+func countParsed(t *testing.T, texts []string, check func(t *testing.T, s string) bool) {
+	t.Helper()
 	accepted, refused := 0, 0
-	for _, p := range list {
-		s := projectText(p)
-		var variants []string
-		for i := range len(s) + 1 {
-			variants = append(variants, s[:i], s[i:])
-			for _, c := range "ax 'A@(\n\x7f\u00e9" {
-				variants = append(variants, s[:i]+string(c)+s[i:])
-				if i < len(s) {
-					variants = append(variants, s[:i]+string(c)+s[i+1:])
-				}
-			}
-			if i < len(s) {
-				variants = append(variants, s[:i]+s[i+1:])
-			}
-		}
-		lines := strings.SplitAfter(s, "\n")
-		for i := range lines {
-			for j := range lines {
-				swapped := slices.Clone(lines)
-				swapped[i], swapped[j] = swapped[j], swapped[i]
-				variants = append(variants, strings.Join(swapped, ""), strings.Join(slices.Insert(slices.Clone(lines), i, lines[j]), ""), strings.Join(slices.Delete(slices.Clone(lines), min(i, j), max(i, j)), ""))
-			}
-		}
-		for _, v := range variants {
-			if checkParseProject(t, v) {
+	for _, s := range texts {
+		for _, v := range changedTexts(s) {
+			if check(t, v) {
 				accepted++
 			} else {
 				refused++
@@ -553,8 +540,18 @@ func TestParseProjectChangedTexts(t *testing.T) {
 		}
 	}
 	if accepted < 1000 || refused < 1000 {
-		t.Errorf("ParseProject accepts %d changed texts and refuses %d", accepted, refused)
+		t.Errorf("%d changed texts are accepted, and %d are refused", accepted, refused)
 	}
+}
+
+func TestParseProjectChangedTexts(t *testing.T) {
+	list := []string{projectText(fullProject()), projectText(impl.Project{})}
+	for i, p := range smallProjects() {
+		if i%40 == 0 {
+			list = append(list, projectText(p))
+		}
+	}
+	countParsed(t, list, checkParseProject)
 }
 
 func TestParseProjectInvalid(t *testing.T) {
