@@ -966,23 +966,40 @@ func TestStoresLeaveArgumentsAlone(t *testing.T) {
 		t.Error("EntryHonest modifies its argument")
 	}
 	check("a function without entries as its result")
-	for what, got := range storeResults(list) {
-		check(what)
+	checkArgumentsApart(t, list, storeResults)
+}
+
+// checkArgumentsApart checks that functions with stores as their results leave the one that they are given alone, and that the results share no memory with it.
+func checkArgumentsApart(t *testing.T, list []impl.Entry, results func(list []impl.Entry) map[string][]impl.Entry) {
+	t.Helper()
+	before := wholeStoreText(list)
+	all := results(list)
+	if wholeStoreText(list) != before {
+		t.Fatalf("a function modifies its argument: %q", wholeStoreText(list))
+	}
+	for what, got := range all {
 		for i := range got {
 			spoil(got[i].Reads)
 		}
 		spoilUnusedEntries(got[:0])
-		check(what)
+		if wholeStoreText(list) != before {
+			t.Fatalf("the result of %s shares memory with its argument: %q", what, wholeStoreText(list))
+		}
 	}
 }
 
 func TestStoreResultsShareNoMemory(t *testing.T) {
-	list := sharingStore()
-	others, results := storeResults(list), storeResults(list)
-	if len(results) != 10 {
+	if results := storeResults(sharingStore()); len(results) != 10 {
 		t.Errorf("%d functions return entries", len(results))
 	}
-	for what, got := range results {
+	checkStoresApart(t, sharingStore(), storeResults)
+}
+
+// checkStoresApart checks that functions with stores as their results return the same ones again, and that these share no memory.
+func checkStoresApart(t *testing.T, list []impl.Entry, results func(list []impl.Entry) map[string][]impl.Entry) {
+	t.Helper()
+	others := results(list)
+	for what, got := range results(list) {
 		text := storeText(got)
 		if text != storeText(others[what]) {
 			t.Errorf("%s returns %q and then %q", what, storeText(others[what]), text)
@@ -1000,7 +1017,7 @@ func TestStoreResultsShareNoMemory(t *testing.T) {
 		}
 		spoilUnusedEntries(got[:0])
 	}
-	for what, other := range storeResults(list) {
+	for what, other := range results(list) {
 		if storeText(other) != storeText(others[what]) {
 			t.Errorf("two results share memory, one of them of %s", what)
 		}
