@@ -177,7 +177,7 @@ func ChangedFiles(a []File, b []File) []string {
 		return nil
 	}
 	var paths []string
-	for left, right := range filesByPath(a, b) {
+	for left, right := range merge(a, b, filePath) {
 		if left != right {
 			paths = append(paths, cmp.Or(left.Path, right.Path))
 		}
@@ -185,14 +185,18 @@ func ChangedFiles(a []File, b []File) []string {
 	return paths
 }
 
-// filesByPath yields, for each path of two valid lists in ascending order, the files with this path.
-// Where a list has none, the zero value stands for it, which differs from every file since no path is empty.
-func filesByPath(a []File, b []File) iter.Seq2[File, File] {
-	return func(yield func(File, File) bool) {
+func filePath(f File) string {
+	return f.Path
+}
+
+// merge yields, for each key of two lists that are ascending by their keys, the elements with this key, in ascending order.
+// Where a list has none, the zero value stands for it, which differs from every element if no key is empty.
+func merge[T any](a []T, b []T, key func(T) string) iter.Seq2[T, T] {
+	return func(yield func(T, T) bool) {
 		i, j := 0, 0
 		for i < len(a) || j < len(b) {
-			order := comparePaths(a[i:], b[j:])
-			var left, right File
+			order := compareFirst(a[i:], b[j:], key)
+			var left, right T
 			if order <= 0 {
 				left = a[i]
 				i++
@@ -208,13 +212,13 @@ func filesByPath(a []File, b []File) iter.Seq2[File, File] {
 	}
 }
 
-// comparePaths compares the first paths of two lists, of which an empty one comes last.
-func comparePaths(a []File, b []File) int {
+// compareFirst compares the keys of the first elements of two lists, of which an empty one comes last.
+func compareFirst[T any](a []T, b []T, key func(T) string) int {
 	if len(a) == 0 {
 		return 1
 	}
 	if len(b) == 0 {
 		return -1
 	}
-	return strings.Compare(a[0].Path, b[0].Path)
+	return strings.Compare(key(a[0]), key(b[0]))
 }

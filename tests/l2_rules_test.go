@@ -405,17 +405,18 @@ func isText(s string) bool {
 	}
 	var reduced strings.Builder
 	for i, part := range parts {
-		if i%2 == 0 {
-			reduced.WriteString(part)
-		} else if !printable.MatchString(part) {
+		switch {
+		case i%2 == 0 && letters.MatchString(part), i%2 == 1 && !printable.MatchString(part):
 			return false
-		} else {
+		case i%2 == 0:
+			reduced.WriteString(part)
+		default:
 			reduced.WriteString("A")
 		}
 	}
 	s = reduced.String()
 	nodes := len(parts)/2 + len(operators.FindAllString(s, -1))
-	if len(parts)/2 != strings.Count(s, "A") || nodes > 20 {
+	if nodes > 20 {
 		return false
 	}
 	for old := ""; s != old; {
@@ -454,7 +455,7 @@ func checkParse(t *testing.T, s string) bool {
 	return ok
 }
 
-const parseBytes = "'@()[]=?:<>#aA \n"
+const parseBytes = "'@()[]=?:<>#aAB \n"
 
 func TestParseExprShortTexts(t *testing.T) {
 	list := []string{""}

@@ -664,15 +664,7 @@ func TestProjectsLeaveArgumentsAlone(t *testing.T) {
 	if !sameExpr(body, join20()) || wholeText(p) != before {
 		t.Fatal("a function modifies its argument")
 	}
-	for what, got := range projectResults(p) {
-		if wholeText(p) != before {
-			t.Fatalf("a function modifies its argument: %q", wholeText(p))
-		}
-		spoilProject(got)
-		if wholeText(p) != before {
-			t.Fatalf("the result of %s shares memory with its argument: %q", what, wholeText(p))
-		}
-	}
+	checkProjectLeftAlone(t, p, projectResults)
 	for _, r := range p.Rules {
 		found, _ := impl.FindRule(p, r.Target)
 		spoilExpr(found)
@@ -687,18 +679,38 @@ func TestProjectsLeaveArgumentsAlone(t *testing.T) {
 	}
 }
 
+// checkProjectLeftAlone checks that the functions that return the results neither modify p nor share its memory.
+func checkProjectLeftAlone(t *testing.T, p impl.Project, results func(p impl.Project) map[string]impl.Project) {
+	t.Helper()
+	before := wholeText(p)
+	for what, got := range results(p) {
+		if wholeText(p) != before {
+			t.Fatalf("a function modifies its argument: %q", wholeText(p))
+		}
+		spoilProject(got)
+		if wholeText(p) != before {
+			t.Fatalf("the result of %s shares memory with its argument: %q", what, wholeText(p))
+		}
+	}
+}
+
 func TestProjectResultsShareNoMemory(t *testing.T) {
 	p := sharingProject()
-	others := projectResults(p)
+	if results := projectResults(p); len(results) != 12 {
+		t.Errorf("%d functions return a project", len(results))
+	}
+	checkProjectsApart(t, p, projectResults)
+}
+
+// checkProjectsApart checks that neither two results nor two lists of one result share memory.
+func checkProjectsApart(t *testing.T, p impl.Project, projects func(p impl.Project) map[string]impl.Project) {
+	t.Helper()
+	others := projects(p)
 	texts := map[string]string{}
 	for what, other := range others {
 		texts[what] = projectText(other)
 	}
-	results := projectResults(p)
-	if len(results) != 12 {
-		t.Errorf("%d functions return a project", len(results))
-	}
-	for what, got := range results {
+	for what, got := range projects(p) {
 		spoil(got.Sources[len(got.Sources):])
 		spoilUnusedRules(got.Rules)
 		for _, r := range got.Rules {

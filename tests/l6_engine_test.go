@@ -10,15 +10,28 @@ import (
 	"loop.example/buildengine/impl"
 )
 
+// unfold returns lines in which each | stands for a newline, and a newline after them.
+func unfold(lines string) string {
+	if lines == "" {
+		return ""
+	}
+	return strings.ReplaceAll(lines, "|", "\n") + "\n"
+}
+
+// projectOf is short for the valid project whose text has these lines after its first one, in which each | stands for a newline.
+func projectOf(lines string) impl.Project {
+	p, ok := impl.ParseProject("project\n" + unfold(lines))
+	if !ok {
+		panic("no project: " + lines)
+	}
+	return p
+}
+
 // storeOf is short for the valid store with this text, in which each | stands for a newline.
 func storeOf(lines string) []impl.Entry {
-	s := strings.ReplaceAll(lines, "|", "\n")
-	if s != "" {
-		s += "\n"
-	}
-	list, ok := impl.ParseStore(s)
+	list, ok := impl.ParseStore(unfold(lines))
 	if !ok {
-		panic("no store: " + s)
+		panic("no store: " + lines)
 	}
 	return list
 }

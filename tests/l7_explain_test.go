@@ -257,11 +257,7 @@ func TestReasonOf(t *testing.T) {
 		{"entries that read each other, but not the bodies", "rule c 'x'|rule d 'y'", "entry c 'x'|read d y|text x|entry d 'y'|read c x|text y", "d", "current"},
 		{"entries that read each other, but not the bodies, one text has changed", "rule c 'x'|rule d 'y'", "entry c 'x'|read d x|text x|entry d 'y'|read c x|text y", "c", "read d"},
 	} {
-		var p impl.Project
-		if c.project != "" {
-			p = project(strings.Split(c.project, "|")...)
-		}
-		store := storeOf(c.store)
+		p, store := projectOf(c.project), storeOf(c.store)
 		if got := reasonText(impl.ReasonOf(p, store, c.target)); got != c.want {
 			t.Errorf("%s: ReasonOf of %s = %s, not %s", c.what, c.target, got, c.want)
 		}
