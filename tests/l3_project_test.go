@@ -474,20 +474,38 @@ func ascending(list []string) bool {
 	return slices.Equal(list, slices.Compact(slices.Sorted(slices.Values(list))))
 }
 
-// checkParseProject checks that ParseProject returns the project whose text is s, exactly if there is one, and reports whether it does.
-func checkParseProject(t *testing.T, s string) bool {
+// checkParsed checks that parse returns the value whose text is s, exactly if isText says that there is one, and reports whether it does.
+// The text of a value is what write, of the tests, and format, of the program, return.
+func checkParsed[T any](t *testing.T, s string, isText func(string) bool, parse func(string) (T, bool), write, format func(T) string) bool {
 	t.Helper()
-	p, ok := impl.ParseProject(s)
-	if ok != isProjectText(s) {
-		t.Fatalf("ParseProject(%q) = %v, %v", s, p, ok)
-	}
-	if ok && (!impl.ProjectValid(p) || projectText(p) != s || impl.FormatProject(p) != s) {
-		t.Fatalf("ParseProject(%q) = %v, whose text is %q", s, p, impl.FormatProject(p))
-	}
-	if !ok && !isZero(p) {
-		t.Fatalf("ParseProject(%q) returns false with %v", s, p)
+	var zero T
+	value, ok := parse(s)
+	switch {
+	case ok != isText(s):
+		t.Fatalf("the text %q is parsed as %v, %v", s, value, ok)
+	case ok && (write(value) != s || format(value) != s):
+		t.Fatalf("the text %q is parsed as %v, whose text is %q", s, value, format(value))
+	case !ok && write(value) != write(zero):
+		t.Fatalf("the text %q is refused with %v", s, value)
 	}
 	return ok
+}
+
+// checkParseProject checks ParseProject of s, and reports whether s is the text of a project.
+func checkParseProject(t *testing.T, s string) bool {
+	t.Helper()
+	return checkParsed(t, s, isProjectText, impl.ParseProject, projectText, impl.FormatProject)
+}
+
+// textsOfLines returns a text with some of the lines after it, in any order, the shorter texts first, until there are most of them.
+func textsOfLines(first string, lines []string, most int) []string {
+	list := []string{first}
+	for i := 0; len(list) < most; i++ {
+		for _, line := range lines {
+			list = append(list, list[i]+line)
+		}
+	}
+	return list
 }
 
 // All texts of up to four lines, some of which are not the lines of a project, and some without a newline.
@@ -495,15 +513,9 @@ func TestParseProjectLinesInAnyOrder(t *testing.T) {
 	lines := []string{"project\n", "source a x\n", "source b \n", "source ab '1'\n", "rule a '1'\n", "rule b @'a'\n", "rule c ''\n", "rule c 'x'\n", "rule c\n", "source c\n", "\n", " ", "project", "source c ", "rule d ()"}
 	accepted := 0
 	for _, first := range []string{"project\n", "project", "project \n", " project\n", "\n", ""} {
-		list := []string{first}
-		for i := 0; i < len(list); i++ {
-			if checkParseProject(t, list[i]) {
+		for _, s := range textsOfLines(first, lines, 20000) {
+			if checkParseProject(t, s) {
 				accepted++
-			}
-			if len(list) < 20000 {
-				for _, line := range lines {
-					list = append(list, list[i]+line)
-				}
 			}
 		}
 	}

@@ -794,35 +794,19 @@ func isStoreText(s string) bool {
 	return !within && ascending(targets) && len(targets) <= 20
 }
 
-// checkParseStore checks that ParseStore returns the store whose text is s, exactly if there is one, and reports whether it does.
+// checkParseStore checks ParseStore of s, and reports whether s is the text of a store.
 func checkParseStore(t *testing.T, s string) bool {
 	t.Helper()
-	list, ok := impl.ParseStore(s)
-	if ok != isStoreText(s) {
-		t.Fatalf("ParseStore(%q) = %v, %v", s, list, ok)
-	}
-	if ok && (!impl.StoreValid(list) || storeText(list) != s || impl.FormatStore(list) != s) {
-		t.Fatalf("ParseStore(%q) = %v, whose text is %q", s, list, impl.FormatStore(list))
-	}
-	if !ok && len(list) != 0 {
-		t.Fatalf("ParseStore(%q) returns false with %v", s, list)
-	}
-	return ok
+	return checkParsed(t, s, isStoreText, impl.ParseStore, storeText, impl.FormatStore)
 }
 
 // All texts of a few lines, some of which are not the lines of a store, and some without a newline.
 func TestParseStoreLinesInAnyOrder(t *testing.T) {
 	lines := []string{"entry a @'b'\n", "entry b 'x'\n", "entry ab ''\n", "read b 1\n", "read c \n", "read c text \n", "text \n", "text read c \n", "text x\n", "entry c (\n", "text\n", "read\n", "read d\n", "\n", "text x", " "}
-	list := []string{""}
 	accepted := 0
-	for i := 0; i < len(list); i++ {
-		if checkParseStore(t, list[i]) {
+	for _, s := range textsOfLines("", lines, 200000) {
+		if checkParseStore(t, s) {
 			accepted++
-		}
-		if len(list) < 200000 {
-			for _, line := range lines {
-				list = append(list, list[i]+line)
-			}
 		}
 	}
 	// Longer texts, in which only the order and the number of the lines may be wrong.

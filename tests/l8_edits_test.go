@@ -463,35 +463,19 @@ func isEditsText(s string) bool {
 	return true
 }
 
-// checkParseEdits checks that ParseEdits returns the edits whose text is s, exactly if there are any, and reports whether it does.
+// checkParseEdits checks ParseEdits of s, and reports whether s is the text of a list of edits.
 func checkParseEdits(t *testing.T, s string) bool {
 	t.Helper()
-	list, ok := impl.ParseEdits(s)
-	if ok != isEditsText(s) {
-		t.Fatalf("ParseEdits(%q) = %v, %v", s, list, ok)
-	}
-	if ok && (editsText(list) != s || impl.FormatEdits(list) != s) {
-		t.Fatalf("ParseEdits(%q) = %v, whose text is %q", s, list, impl.FormatEdits(list))
-	}
-	if !ok && len(list) != 0 {
-		t.Fatalf("ParseEdits(%q) returns false with %v", s, list)
-	}
-	return ok
+	return checkParsed(t, s, isEditsText, impl.ParseEdits, editsText, impl.FormatEdits)
 }
 
 // All texts of a few lines, some of which are not the lines of edits, and some without a newline.
 func TestParseEditsLinesInAnyOrder(t *testing.T) {
 	lines := []string{"source a x\n", "source b \n", "nosource a\n", "rule a '1'\n", "rule b @'a'\n", "norule b\n", "norule b \n", "nosource a x\n", "source a\n", "rule c x\n", "drop a\n", "\n", " ", "source a x", "norule b", "project\n"}
-	list := []string{""}
 	accepted := 0
-	for i := 0; i < len(list); i++ {
-		if checkParseEdits(t, list[i]) {
+	for _, s := range textsOfLines("", lines, 100000) {
+		if checkParseEdits(t, s) {
 			accepted++
-		}
-		if len(list) < 100000 {
-			for _, line := range lines {
-				list = append(list, list[i]+line)
-			}
 		}
 	}
 	// Longer texts, in which only the number of the lines may be wrong.
