@@ -3,6 +3,7 @@ package tests
 import (
 	"fmt"
 	"maps"
+	"math/rand"
 	"regexp"
 	"slices"
 	"strings"
@@ -508,16 +509,36 @@ func textsOfLines(first string, lines []string, most int) []string {
 	return list
 }
 
+// randomTexts returns n texts of fewer than most lines.
+func randomTexts(seed int64, lines []string, most, n int) []string {
+	r := rand.New(rand.NewSource(seed))
+	list := make([]string, n)
+	for i := range list {
+		for range r.Intn(most) {
+			list[i] += lines[r.Intn(len(lines))]
+		}
+	}
+	return list
+}
+
+// countAccepted returns for how many texts check is true.
+func countAccepted(t *testing.T, texts []string, check func(t *testing.T, s string) bool) int {
+	t.Helper()
+	accepted := 0
+	for _, s := range texts {
+		if check(t, s) {
+			accepted++
+		}
+	}
+	return accepted
+}
+
 // All texts of up to four lines, some of which are not the lines of a project, and some without a newline.
 func TestParseProjectLinesInAnyOrder(t *testing.T) {
 	lines := []string{"project\n", "source a x\n", "source b \n", "source ab '1'\n", "rule a '1'\n", "rule b @'a'\n", "rule c ''\n", "rule c 'x'\n", "rule c\n", "source c\n", "\n", " ", "project", "source c ", "rule d ()"}
 	accepted := 0
 	for _, first := range []string{"project\n", "project", "project \n", " project\n", "\n", ""} {
-		for _, s := range textsOfLines(first, lines, 20000) {
-			if checkParseProject(t, s) {
-				accepted++
-			}
-		}
+		accepted += countAccepted(t, textsOfLines(first, lines, 20000), checkParseProject)
 	}
 	if accepted < 30 {
 		t.Errorf("ParseProject accepts only %d texts", accepted)
@@ -541,17 +562,12 @@ func changedTexts(s string) []string {
 // countParsed calls check for all changed texts of some texts, and fails if it is true, or false, for hardly any of them.
 func countParsed(t *testing.T, texts []string, check func(t *testing.T, s string) bool) {
 	t.Helper()
-	accepted, refused := 0, 0
+	var list []string
 	for _, s := range texts {
-		for _, v := range changedTexts(s) {
-			if check(t, v) {
-				accepted++
-			} else {
-				refused++
-			}
-		}
+		list = append(list, changedTexts(s)...)
 	}
-	if accepted < 1000 || refused < 1000 {
+	accepted := countAccepted(t, list, check)
+	if refused := len(list) - accepted; accepted < 1000 || refused < 1000 {
 		t.Errorf("%d changed texts are accepted, and %d are refused", accepted, refused)
 	}
 }

@@ -803,23 +803,9 @@ func checkParseStore(t *testing.T, s string) bool {
 // All texts of a few lines, some of which are not the lines of a store, and some without a newline.
 func TestParseStoreLinesInAnyOrder(t *testing.T) {
 	lines := []string{"entry a @'b'\n", "entry b 'x'\n", "entry ab ''\n", "read b 1\n", "read c \n", "read c text \n", "text \n", "text read c \n", "text x\n", "entry c (\n", "text\n", "read\n", "read d\n", "\n", "text x", " "}
-	accepted := 0
-	for _, s := range textsOfLines("", lines, 200000) {
-		if checkParseStore(t, s) {
-			accepted++
-		}
-	}
+	accepted := countAccepted(t, textsOfLines("", lines, 200000), checkParseStore)
 	// Longer texts, in which only the order and the number of the lines may be wrong.
-	r := rand.New(rand.NewSource(54))
-	for range 60000 {
-		s := ""
-		for range r.Intn(9) {
-			s += lines[r.Intn(9)]
-		}
-		if checkParseStore(t, s) {
-			accepted++
-		}
-	}
+	accepted += countAccepted(t, randomTexts(54, lines[:9], 9, 60000), checkParseStore)
 	if accepted < 1000 {
 		t.Errorf("ParseStore accepts only %d texts", accepted)
 	}

@@ -472,23 +472,9 @@ func checkParseEdits(t *testing.T, s string) bool {
 // All texts of a few lines, some of which are not the lines of edits, and some without a newline.
 func TestParseEditsLinesInAnyOrder(t *testing.T) {
 	lines := []string{"source a x\n", "source b \n", "nosource a\n", "rule a '1'\n", "rule b @'a'\n", "norule b\n", "norule b \n", "nosource a x\n", "source a\n", "rule c x\n", "drop a\n", "\n", " ", "source a x", "norule b", "project\n"}
-	accepted := 0
-	for _, s := range textsOfLines("", lines, 100000) {
-		if checkParseEdits(t, s) {
-			accepted++
-		}
-	}
+	accepted := countAccepted(t, textsOfLines("", lines, 100000), checkParseEdits)
 	// Longer texts, in which only the number of the lines may be wrong.
-	r := rand.New(rand.NewSource(82))
-	for range 3000 {
-		s := ""
-		for range r.Intn(26) {
-			s += lines[r.Intn(6)]
-		}
-		if checkParseEdits(t, s) {
-			accepted++
-		}
-	}
+	accepted += countAccepted(t, randomTexts(82, lines[:6], 26, 3000), checkParseEdits)
 	if accepted < 3000 {
 		t.Errorf("ParseEdits accepts only %d texts", accepted)
 	}
